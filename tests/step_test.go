@@ -336,7 +336,7 @@ func TestNumbersFallBelowThemselves(t *testing.T) {
 	checkInts(t, 0, 0, []wantInt{
 		pair(impl.FallsBelow(27)).is("FallsBelow of 27", 96, true),
 		pair(impl.FallsBelow(703)).is("FallsBelow of 703", 132, true),
-		pair(impl.FallsBelow(63728127)).is("FallsBelow of 63728127", 613, true),
+		pair(impl.FallsBelow(63728127)).is("FallsBelow of 63728127", 613, true), // no number needs more within the limits
 	})
 }
 
